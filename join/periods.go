@@ -15,8 +15,10 @@ type period struct {
 	times   int // how often it is said
 }
 
-// A change is what a transformation does with a period.
-type change func(p *period)
+// A change is a step of a transformation, with what it does to a period.
+type change struct {
+	apply func(p *period)
+}
 
 // periods yields the periods of a wave after some changes.
 func periods(m api.Marked, changes []change) iter.Seq[period] {
@@ -24,8 +26,8 @@ func periods(m api.Marked, changes []change) iter.Seq[period] {
 		for i, end := range m.Marks[1:] {
 			samples := m.Samples[m.Marks[i]:end]
 			p := period{number: i, samples: samples, length: len(samples), times: 1}
-			for _, apply := range changes {
-				apply(&p)
+			for _, c := range changes {
+				c.apply(&p)
 			}
 			if !yield(p) {
 				return
@@ -39,11 +41,11 @@ func stretching(m api.Marked, num, den int) change {
 	before := len(m.Marks) - 1
 	after := max(1, rounded(before*num, den))
 	first := func(number int) int { return (number*after + before - 1) / before }
-	return func(p *period) { p.times = first(p.number+1) - first(p.number) }
+	return change{func(p *period) { p.times = first(p.number+1) - first(p.number) }}
 }
 
 func transposing(num, den int) change {
-	return func(p *period) { p.length = max(1, rounded(p.length*den, num)) }
+	return change{func(p *period) { p.length = max(1, rounded(p.length*den, num)) }}
 }
 
 // rebuilt returns a wave with other periods between its head and its tail.
