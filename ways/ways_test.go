@@ -90,7 +90,8 @@ func (c code) waysOfSelection(n ast.Node, called map[ast.Expr]bool) []string {
 // TestWays: the features that the layers have.
 func TestWays(t *testing.T) {
 	for layer, wanted := range map[string]string{
-		"join": "range-function function-field variadic generic-function label copy three-index",
+		"join":  "range-function function-field variadic generic-function label copy three-index",
+		"tract": "interface interface-call array three-index variadic range-function embedding promoted method-value",
 	} {
 		f := newFolders()
 		files, err := f.parsed(layer)
