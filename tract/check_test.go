@@ -139,10 +139,8 @@ func TestCheckFeeds(t *testing.T) {
 func TestCheckSteps(t *testing.T) {
 	tube := tubeOf(t, branched(), 100, 10, -20)
 	before := looks(tube)
-	for steps, want := range map[int]api.Errno{least: api.ErrArg, -1: api.ErrArg, api.MaxSteps: api.ErrLong, api.MaxSteps + 1: api.ErrLong, greatest: api.ErrLong} {
-		isError(t, "Rest", results(tube.Rest(steps)), want)
-		isSame(t, "looks", looks(tube), before)
-	}
+	isError(t, "with one before, one too many", results(tube.Rest(api.MaxSteps)), api.ErrLong)
+	isSame(t, "looks", looks(tube), before)
 	judge(t, "the last steps but one", api.OK, results(tube.Rest(api.MaxSteps-2)))
 	judge(t, "the last one", api.OK, results(tube.Step(feed(0, 9))))
 	before = looks(tube)
@@ -150,14 +148,27 @@ func TestCheckSteps(t *testing.T) {
 	isError(t, "one more", results(tube.Step()), api.ErrLong)
 	isError(t, "a wrong one more", results(tube.Step(feed(-1, 0))), api.ErrArg)
 	isError(t, "Rest", results(tube.Rest(1)), api.ErrLong)
-	isError(t, "Rest", results(tube.Rest(-1)), api.ErrArg)
+	isError(t, "Rest", results(tube.Rest(api.MaxSteps)), api.ErrLong)
 	isSame(t, "looks", looks(tube), before)
 	isOK(t, "Rest", results(tube.Rest(0)), []api.Heard{})
 	isSame(t, "Change", tube.Change([]int{1, 1, 1}, []int{1, 1}), api.OK)
+}
 
-	tube = made(t, branched())
-	isError(t, "too many at once", results(tube.Rest(api.MaxSteps+1)), api.ErrLong)
-	judge(t, "as many as may be", api.OK, results(tube.Rest(api.MaxSteps)))
+// TestCheckRest: a number of steps out of its range is ErrArg, however many steps the tube has made.
+func TestCheckRest(t *testing.T) {
+	for steps, valid := range bounds(0, api.MaxSteps) {
+		judge(t, "a new tube", orArg(valid), results(made(t, branched()).Rest(steps)))
+		if valid {
+			continue
+		}
+		tube := tubeOf(t, branched(), 100, 10, -20)
+		for _, before := range []int{1, api.MaxSteps} {
+			judge(t, "steps before", api.OK, results(tube.Rest(before-tube.Steps())))
+			same := looks(tube)
+			isError(t, "Rest", results(tube.Rest(steps)), api.ErrArg)
+			isSame(t, "looks", looks(tube), same)
+		}
+	}
 }
 
 // judgeChange judges a change of a tube with a branch; with an error, nothing changes.
