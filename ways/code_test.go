@@ -90,13 +90,18 @@ func (c code) declare(d ast.Decl) {
 		}
 		return
 	}
-	for _, s := range d.(*ast.GenDecl).Specs {
+	group := d.(*ast.GenDecl)
+	for _, s := range group.Specs {
 		switch s := s.(type) {
 		case *ast.TypeSpec:
 			c.declared[c.Defs[s.Name]] = s
 		case *ast.ValueSpec:
+			node := ast.Node(s)
+			if group.Tok == token.CONST { // a constant may repeat the value of one before it
+				node = group
+			}
 			for _, name := range s.Names {
-				c.declared[c.Defs[name]] = s
+				c.declared[c.Defs[name]] = node
 			}
 		}
 	}

@@ -52,6 +52,8 @@ func (c code) waysOfType(n ast.Node) []string {
 		return chosen("interface", slices.ContainsFunc(n.Methods.List, func(f *ast.Field) bool { return len(f.Names) > 0 }))
 	case *ast.ArrayType:
 		return chosen("array", n.Len != nil)
+	case *ast.TypeSpec:
+		return chosen("generic-type", n.TypeParams != nil)
 	}
 	return nil
 }
@@ -65,11 +67,14 @@ func (c code) waysOfCode(n ast.Node) []string {
 		return chosen("range-function", c.isFunction(n.X))
 	case *ast.LabeledStmt:
 		return []string{"label"}
+	case *ast.FuncLit:
+		return []string{"closure"}
 	case *ast.SliceExpr:
 		return chosen("three-index", n.Slice3)
 	case *ast.Ident:
-		b, ok := c.Uses[n].(*types.Builtin)
-		return chosen("copy", ok && b.Name() == "copy")
+		o := c.Uses[n]
+		given := o != nil && o.Parent() == types.Universe
+		return slices.Concat(chosen("copy", given && n.Name == "copy"), chosen("iota", given && n.Name == "iota"))
 	}
 	return nil
 }
@@ -90,8 +95,9 @@ func (c code) waysOfSelection(n ast.Node, called map[ast.Expr]bool) []string {
 // TestWays: the features that the layers have.
 func TestWays(t *testing.T) {
 	for layer, wanted := range map[string]string{
-		"join":  "range-function function-field variadic generic-function label copy three-index",
-		"tract": "interface interface-call array three-index variadic range-function embedding promoted method-value",
+		"join":   "range-function function-field variadic generic-function label copy three-index",
+		"tract":  "interface interface-call array three-index variadic range-function embedding promoted method-value",
+		"stream": "method-value iota generic-type range-function label variadic closure interface interface-call",
 	} {
 		f := newFolders()
 		files, err := f.parsed(layer)
@@ -130,12 +136,15 @@ func waysOf(t *testing.T, source string) map[string]bool {
 func has() map[string]string {
 	return map[string]string{
 		"array":            `var table = [2]int{1, 2}; func use() { _ = table }`,
+		"closure":          `func use() { f := func() {}; f() }`,
 		"copy":             `func use() { copy([]int{1}, []int{2}) }`,
 		"embedding":        `type part struct{}; type whole struct{ part }; func use() { _ = whole{} }`,
 		"function-field":   `type doing func(); type step struct{ do doing }; func use() { _ = []step{{func() {}}} }`,
 		"generic-function": `func first[E any](all ...E) {}; func use() { first(1) }`,
+		"generic-type":     `type list[E any] []E; func use() { _ = list[int]{} }`,
 		"interface":        `type place interface{ at() int }; func use() { var p place; _ = p }`,
 		"interface-call":   `func use() { var e error; _ = e.Error() }`,
+		"iota":             `type kind int; const (none kind = iota; some); func use() { _ = some }`,
 		"label":            "func use() {\nouter:\n\tfor {\n\t\tbreak outer\n\t}\n}",
 		"method-value":     `type thing int; func (t thing) do() {}; func use() { f := thing(1).do; f() }`,
 		"promoted":         `type part struct{ n int }; type whole struct{ part }; func use() { _ = whole{}.n }`,
@@ -167,12 +176,16 @@ func TestWaysSeen(t *testing.T) {
 func TestWaysNotSeen(t *testing.T) {
 	for _, c := range []struct{ way, source string }{
 		{"array", `func Face() { _ = []int{1, 2} }`},
+		{"closure", `func do() {}; func Face() { f := do; f() }`},
 		{"copy", `func copied(n int) int { return n }; func Face() { copied(1) }`},
+		{"copy", `func copy(n int) int { return n }; func Face() { copy(1) }`},
 		{"embedding", `type whole struct{ part int }; func Face() { _ = whole{} }`},
 		{"function-field", `type step func(); func Face() { _ = []step{func() {}} }`},
 		{"generic-function", `type list[E any] []E; func Face() { _ = list[int]{} }`},
+		{"generic-type", `func first[E any](e E) {}; func Face() { first(1) }`},
 		{"interface", `type number interface{ ~int | ~uint }; func add[N number](n N) {}; func Face() { add(1) }`},
 		{"interface-call", `type thing int; func (t thing) do() {}; func Face() { thing(1).do() }`},
+		{"iota", `const iota = 1; func Face() { _ = iota }`},
 		{"method-value", `type thing int; func (t thing) do() {}; func Face() { (thing(1).do)() }`},
 		{"promoted", `type part struct{ n int }; type whole struct{ part }; func Face() { _ = whole{}.part.n }`},
 		{"range-function", `func all() []int { return nil }; func Face() { for range all() {} }`},
