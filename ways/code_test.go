@@ -14,11 +14,12 @@ import (
 type folders struct {
 	set     *token.FileSet
 	library types.Importer
+	own     map[string]*types.Package // of the module, each imported once, because types of two imports are different
 }
 
 func newFolders() folders {
 	set := token.NewFileSet()
-	return folders{set, importer.ForCompiler(set, "source", nil)}
+	return folders{set, importer.ForCompiler(set, "source", nil), map[string]*types.Package{}}
 }
 
 func (f folders) Import(path string) (*types.Package, error) {
@@ -26,11 +27,15 @@ func (f folders) Import(path string) (*types.Package, error) {
 	if !own {
 		return f.library.Import(path)
 	}
+	if known := f.own[path]; known != nil {
+		return known, nil
+	}
 	files, err := f.parsed(folder)
 	if err != nil {
 		return nil, err
 	}
-	return f.checked(path, files, nil)
+	f.own[path], err = f.checked(path, files, nil)
+	return f.own[path], err
 }
 
 // parsed returns the files of a package but its tests.

@@ -50,6 +50,8 @@ func (c code) waysOfType(n ast.Node) []string {
 			chosen("function-field", has(func(f *ast.Field) bool { return c.isFunction(f.Type) })))
 	case *ast.InterfaceType:
 		return chosen("interface", slices.ContainsFunc(n.Methods.List, func(f *ast.Field) bool { return len(f.Names) > 0 }))
+	case *ast.MapType:
+		return []string{"map"}
 	case *ast.ArrayType:
 		return chosen("array", n.Len != nil)
 	case *ast.TypeSpec:
@@ -97,6 +99,7 @@ func TestWays(t *testing.T) {
 	for layer, wanted := range map[string]string{
 		"join":   "range-function function-field variadic generic-function label copy three-index",
 		"tract":  "interface interface-call array three-index variadic range-function embedding promoted method-value",
+		"house":  "map range-function embedding promoted closure label generic-function method-value",
 		"stream": "method-value iota generic-type range-function label variadic closure interface interface-call",
 	} {
 		f := newFolders()
@@ -146,6 +149,7 @@ func has() map[string]string {
 		"interface-call":   `func use() { var e error; _ = e.Error() }`,
 		"iota":             `type kind int; const (none kind = iota; some); func use() { _ = some }`,
 		"label":            "func use() {\nouter:\n\tfor {\n\t\tbreak outer\n\t}\n}",
+		"map":              `func use() { _ = map[int]int{} }`,
 		"method-value":     `type thing int; func (t thing) do() {}; func use() { f := thing(1).do; f() }`,
 		"promoted":         `type part struct{ n int }; type whole struct{ part }; func use() { _ = whole{}.n }`,
 		"range-function":   `func all(yield func(int) bool) {}; func use() { for range all {} }`,
@@ -186,6 +190,7 @@ func TestWaysNotSeen(t *testing.T) {
 		{"interface", `type number interface{ ~int | ~uint }; func add[N number](n N) {}; func Face() { add(1) }`},
 		{"interface-call", `type thing int; func (t thing) do() {}; func Face() { thing(1).do() }`},
 		{"iota", `const iota = 1; func Face() { _ = iota }`},
+		{"map", `type map2 struct{}; func Face() { _ = map2{} }`},
 		{"method-value", `type thing int; func (t thing) do() {}; func Face() { (thing(1).do)() }`},
 		{"promoted", `type part struct{ n int }; type whole struct{ part }; func Face() { _ = whole{}.part.n }`},
 		{"range-function", `func all() []int { return nil }; func Face() { for range all() {} }`},
